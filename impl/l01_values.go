@@ -218,19 +218,25 @@ func rightNodes(x value) ([]VNode, bool) {
 // sortedMap makes a map of as many keys as items; two keys that are the same
 // stay beside each other, so that its nodes are not right.
 func sortedMap(keys []string, items []value) mapValue {
-	places := make([]int, len(keys))
-	for i := range places {
-		places[i] = i
-	}
-	slices.SortStableFunc(places, func(i, j int) int {
-		return strings.Compare(keys[i], keys[j])
-	})
 	var m mapValue
-	for _, i := range places {
+	for _, i := range sortedPlaces(keys, strings.Compare) {
 		m.keys = append(m.keys, keys[i])
 		m.items = append(m.items, items[i])
 	}
 	return m
+}
+
+// sortedPlaces answers the places of the texts in that order; those that are
+// neither ahead nor behind stay as they stand.
+func sortedPlaces(texts []string, compare func(a, b string) int) []int {
+	places := make([]int, len(texts))
+	for i := range places {
+		places[i] = i
+	}
+	slices.SortStableFunc(places, func(i, j int) int {
+		return compare(texts[i], texts[j])
+	})
+	return places
 }
 
 // compared answers -1, 0 or 1.

@@ -126,37 +126,44 @@ func ReadJson(s string) ([]VNode, bool) {
 
 // readJsonValue answers what s says, be it right or not (too deep, with a key
 // twice ..): how far it reaches down is bounded by the length of s alone.
-func readJsonValue(s string) (x value, ok bool) {
-	defer func() {
-		if recover() != nil {
-			x, ok = nil, false
+func readJsonValue(s string) (value, bool) {
+	r := jsonReader{byteReader{s: s}}
+	return unlessGivenUp(func() value {
+		x := r.readAround()
+		if r.at < len(s) {
+			panic(gaveUp{})
 		}
-	}()
-	r := jsonReader{s: s}
-	x = r.readAround()
-	if r.at < len(s) {
-		panic(gaveUp{})
-	}
-	return x, true
+		return x
+	})
 }
 
 // gaveUp is what a reader panics with where s says nothing.
 type gaveUp struct{}
 
-type jsonReader struct {
+// unlessGivenUp answers false when read gives up.
+func unlessGivenUp(read func() value) (x value, ok bool) {
+	defer func() {
+		if recover() != nil {
+			x, ok = nil, false
+		}
+	}()
+	return read(), true
+}
+
+type byteReader struct {
 	s  string
 	at int
 }
 
-// peek answers 0 at the end, too: no byte 0 may stand anywhere.
-func (r *jsonReader) peek() byte {
+// peek answers 0 at the end, too.
+func (r *byteReader) peek() byte {
 	if r.at == len(r.s) {
 		return 0
 	}
 	return r.s[r.at]
 }
 
-func (r *jsonReader) next() byte {
+func (r *byteReader) next() byte {
 	if r.at == len(r.s) {
 		panic(gaveUp{})
 	}
@@ -164,6 +171,9 @@ func (r *jsonReader) next() byte {
 	r.at++
 	return c
 }
+
+// A jsonReader may peek for what stands next: no byte 0 may stand anywhere.
+type jsonReader struct{ byteReader }
 
 func (r *jsonReader) skipBlanks() {
 	for r.at < len(r.s) && strings.IndexByte("\t\n\r ", r.s[r.at]) >= 0 {

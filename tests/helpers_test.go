@@ -95,7 +95,8 @@ func someValue(r *rand.Rand, deep int) []impl.VNode {
 	case impl.VlBool:
 		return truth(int64(r.Intn(2)))
 	case impl.VlInt:
-		edges := []int64{0, -1, 1, 9, -10, impl.MaxInt, -impl.MaxInt, r.Int63n(impl.MaxInt)}
+		some := r.Int63n(impl.MaxInt) >> r.Intn(50)
+		edges := []int64{0, -1, 9, -10, impl.MaxInt, -impl.MaxInt, some, some, -some, -some}
 		return num(edges[r.Intn(len(edges))])
 	case impl.VlText:
 		return text(someText(r))
