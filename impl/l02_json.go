@@ -127,7 +127,7 @@ func ReadJson(s string) ([]VNode, bool) {
 // readJsonValue answers what s says, be it right or not (too deep, with a key
 // twice ..): how far it reaches down is bounded by the length of s alone.
 func readJsonValue(s string) (value, bool) {
-	r := jsonReader{byteReader{s: s}}
+	r := jsonReader{newSignReader(s, "\t\n\r ")}
 	return unlessGivenUp(func() value {
 		x := r.readAround()
 		if r.at < len(s) {
@@ -141,10 +141,10 @@ func readJsonValue(s string) (value, bool) {
 type gaveUp struct{}
 
 // unlessGivenUp answers false when read gives up.
-func unlessGivenUp(read func() value) (x value, ok bool) {
+func unlessGivenUp[T any](read func() T) (x T, ok bool) {
 	defer func() {
 		if recover() != nil {
-			x, ok = nil, false
+			ok = false
 		}
 	}()
 	return read(), true
@@ -172,17 +172,24 @@ func (r *byteReader) next() byte {
 	return c
 }
 
-// A jsonReader may peek for what stands next: no byte 0 may stand anywhere.
-type jsonReader struct{ byteReader }
+// A signReader may peek for what stands next: no byte 0 may stand anywhere.
+type signReader struct {
+	byteReader
+	blanks string // the bytes that may stand around signs
+}
 
-func (r *jsonReader) skipBlanks() {
-	for r.at < len(r.s) && strings.IndexByte("\t\n\r ", r.s[r.at]) >= 0 {
+func newSignReader(s string, blanks string) signReader {
+	return signReader{byteReader{s: s}, blanks}
+}
+
+func (r *signReader) skipBlanks() {
+	for r.at < len(r.s) && strings.IndexByte(r.blanks, r.s[r.at]) >= 0 {
 		r.at++
 	}
 }
 
 // took goes past the sign, and what blanks follow it, if it stands here.
-func (r *jsonReader) took(sign byte) bool {
+func (r *signReader) took(sign byte) bool {
 	if r.peek() != sign {
 		return false
 	}
@@ -191,11 +198,13 @@ func (r *jsonReader) took(sign byte) bool {
 	return true
 }
 
-func (r *jsonReader) must(sign byte) {
+func (r *signReader) must(sign byte) {
 	if !r.took(sign) {
 		panic(gaveUp{})
 	}
 }
+
+type jsonReader struct{ signReader }
 
 // readAround reads a value with the blanks around it.
 func (r *jsonReader) readAround() value {
@@ -289,7 +298,7 @@ func (r *jsonReader) readMap() value {
 }
 
 // readText reads a text in quotes.
-func (r *jsonReader) readText() string {
+func (r *signReader) readText() string {
 	if r.next() != '"' {
 		panic(gaveUp{})
 	}
@@ -309,7 +318,7 @@ func (r *jsonReader) readText() string {
 }
 
 // readEscape reads what stands behind a \ in a text.
-func (r *jsonReader) readEscape() byte {
+func (r *signReader) readEscape() byte {
 	c := r.next()
 	if c == '/' {
 		return c
@@ -324,7 +333,7 @@ func (r *jsonReader) readEscape() byte {
 	return escapedBytes[at]
 }
 
-func (r *jsonReader) readCode() byte {
+func (r *signReader) readCode() byte {
 	n := 0
 	for range 4 {
 		n = 16*n + hexValue(r.next())
